@@ -1,0 +1,62 @@
+// Package parley: four who agree on one log, though one of them lies: see DOC.md.
+package parley
+
+import (
+	"strconv"
+
+	"parley/api"
+)
+
+// Seal tells a member's seal (P2).
+func Seal(member int, kind int, view int, number uint64) uint64 {
+	return hashOfWords("member", strconv.Itoa(member), strconv.Itoa(kind), strconv.Itoa(view), strconv.FormatUint(number, 10))
+}
+
+// Number tells a block's number (P2). Of the Just only its Block counts: blocks
+// of one view, one parent and one command are one block, whoever sealed for it.
+func Number(b api.Block) uint64 {
+	return hashOfWords(strconv.Itoa(b.View), strconv.FormatUint(b.Just.Block, 10), b.Command)
+}
+
+// Good tells whether a certificate is good (P2).
+func Good(c api.Cert) bool {
+	// The first certificate is good without a vote: nobody voted for the first block.
+	return c == api.Cert{} || rightSeals(c) >= api.Quorum
+}
+
+func rightSeals(c api.Cert) int {
+	right := 0
+	for member, seal := range c.Seals {
+		if seal == Seal(member, api.Vote, c.View, c.Block) {
+			right++
+		}
+	}
+	return right
+}
+
+// Member is one of the four.
+type Member struct{}
+
+// New makes a member (P3).
+func New(member int, patience int) (*Member, api.Errno) { return nil, api.OK }
+
+// Submit takes a command (P3).
+func (m *Member) Submit(command string) api.Errno { return api.OK }
+
+// Tick lets time go by (P4).
+func (m *Member) Tick() []api.Letter { return nil }
+
+// Handle takes a message (P5).
+func (m *Member) Handle(message api.Message) ([]api.Letter, api.Errno) { return nil, api.OK }
+
+// View tells the view (P3).
+func (m *Member) View() int { return 0 }
+
+// High tells the highest certificate (P3).
+func (m *Member) High() api.Cert { return api.Cert{} }
+
+// Locked tells the certificate on which it is locked (P3).
+func (m *Member) Locked() api.Cert { return api.Cert{} }
+
+// Log tells the log (P3).
+func (m *Member) Log() []string { return nil }
