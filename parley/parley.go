@@ -34,29 +34,59 @@ func rightSeals(c api.Cert) int {
 	return right
 }
 
-// Member is one of the four.
-type Member struct{}
-
 // New makes a member (P3).
-func New(member int, patience int) (*Member, api.Errno) { return nil, api.OK }
+func New(member int, patience int) (*Member, api.Errno) {
+	if member < 0 || member >= api.Members || patience < 1 || patience > api.MaxPatience {
+		return nil, api.ErrForm
+	}
+	return &Member{
+		id:       member,
+		patience: patience,
+		view:     1,
+		// The first block's number is 0 by definition, not by its text.
+		blocks: map[uint64]api.Block{0: {}},
+		views:  map[int]viewRecord{},
+	}, api.OK
+}
 
 // Submit takes a command (P3).
-func (m *Member) Submit(command string) api.Errno { return api.OK }
+func (m *Member) Submit(command string) api.Errno {
+	if len(command) > api.MaxCommand {
+		return api.ErrForm
+	}
+	if len(m.queue) >= api.MaxQueue {
+		return api.ErrFull
+	}
+	m.queue = append(m.queue, command)
+	return api.OK
+}
 
 // Tick lets time go by (P4).
-func (m *Member) Tick() []api.Letter { return nil }
+func (m *Member) Tick() (letters []api.Letter) {
+	sent := newOutbox()
+	defer sent.takeAll(&letters)
+	m.wait(sent)
+	m.propose(sent)
+	return nil
+}
 
 // Handle takes a message (P5).
 func (m *Member) Handle(message api.Message) ([]api.Letter, api.Errno) { return nil, api.OK }
 
 // View tells the view (P3).
-func (m *Member) View() int { return 0 }
+func (m *Member) View() int { return m.view }
 
 // High tells the highest certificate (P3).
-func (m *Member) High() api.Cert { return api.Cert{} }
+func (m *Member) High() api.Cert { return m.high }
 
 // Locked tells the certificate on which it is locked (P3).
-func (m *Member) Locked() api.Cert { return api.Cert{} }
+func (m *Member) Locked() api.Cert { return m.locked }
 
 // Log tells the log (P3).
-func (m *Member) Log() []string { return nil }
+func (m *Member) Log() []string {
+	commands := make([]string, 0, len(m.log))
+	for _, number := range m.log {
+		commands = append(commands, m.blocks[number].Command)
+	}
+	return commands
+}
