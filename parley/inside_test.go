@@ -1,14 +1,18 @@
 package parley
 
 import (
+	"maps"
+	"math/bits"
+	"math/rand"
+	"reflect"
 	"slices"
 	"testing"
 
 	"parley/api"
 )
 
-// These tests stand inside the package: they put a member where no call of
-// Submit and Tick alone can bring it.
+// These tests stand inside the package: they put a member where calls alone can
+// hardly bring it, and look at what it does not tell.
 
 func memberInside(t *testing.T, id, patience int) *Member {
 	t.Helper()
@@ -125,7 +129,7 @@ func TestP4ProposesWithAQuorumOfEnters(t *testing.T) {
 			}
 			m.views[5] = record
 			letters := m.Tick()
-			if id == 1 && record.entries() >= api.Quorum {
+			if id == 1 && bits.OnesCount(uint(set)) >= api.Quorum {
 				wantInside(t, letters, proposalInside(1, api.Block{View: 5}))
 				wantInside(t, m.Tick(), enterInside(1, 6, api.Cert{}))
 			} else {
@@ -142,7 +146,7 @@ func TestP4EntersOfAnotherViewDoNotCount(t *testing.T) {
 	m.views[13] = m.views[9]
 	wantInside(t, m.Tick(), enterInside(1, 9, api.Cert{}), proposalInside(1, api.Block{View: 9}))
 	wantInside(t, m.Tick(), enterInside(1, 10, api.Cert{}))
-	if _, kept := m.views[9]; kept || m.views[13].entries() != api.Quorum {
+	if _, kept := m.views[9]; kept || !m.views[13].entered.full() {
 		t.Errorf("of views are kept %v", m.views)
 	}
 }
@@ -188,5 +192,168 @@ func TestTheFirstBlockOfANumberStays(t *testing.T) {
 	m.know(later)
 	if m.blocks[Number(first)] != first {
 		t.Error("a later block of the same number took the first one's place")
+	}
+}
+
+// copyOf shares nothing with the member that could change.
+func copyOf(m *Member) *Member {
+	other := *m
+	other.queue = slices.Clone(m.queue)
+	other.log = slices.Clone(m.log)
+	other.blocks = maps.Clone(m.blocks)
+	other.votes = maps.Clone(m.votes)
+	other.views = maps.Clone(m.views)
+	return &other
+}
+
+// someMessage makes a message that is right in most of its parts.
+func someMessage(r *rand.Rand, m *Member) api.Message {
+	numbers := slices.Sorted(maps.Keys(m.blocks))
+	number := numbers[r.Intn(len(numbers))]
+	block := m.blocks[number]
+	if r.Intn(20) == 0 {
+		number++
+	}
+	cert := certInside(block.View, number)
+	if number == firstBlock {
+		cert = api.Cert{}
+	}
+	x := api.Message{Kind: 1 + r.Intn(3), From: r.Intn(4), View: m.view + r.Intn(5) - 1}
+	if r.Intn(9) == 0 {
+		x.View = block.View
+	}
+	if r.Intn(20) == 0 {
+		cert.Seals[r.Intn(4)]++
+	}
+	switch x.Kind {
+	case api.Proposal:
+		x.From = leader(x.View)
+		x.Block = api.Block{View: x.View, Just: cert, Command: "x"}
+		number = Number(x.Block)
+	case api.Vote:
+		x.View, x.Number = block.View, number
+	case api.Enter:
+		x.Cert = cert
+		number = 0
+	}
+	x.Seal = Seal(x.From, x.Kind, x.View, number)
+	if r.Intn(20) == 0 {
+		x.Seal++
+	}
+	return x
+}
+
+func TestP1ARefusedMessageChangesNothing(t *testing.T) {
+	var seen [api.ErrFull]int
+	for seed := range int64(60) {
+		r := rand.New(rand.NewSource(seed))
+		m := memberInside(t, int(seed%4), 3)
+		m.Tick()
+		for range 300 {
+			if r.Intn(20) == 0 {
+				m.Tick()
+			}
+			x := someMessage(r, m)
+			before := copyOf(m)
+			letters, errno := m.Handle(x)
+			seen[errno]++
+			if errno != api.OK && (len(letters) != 0 || !reflect.DeepEqual(m, before)) {
+				t.Fatalf("Handle(%+v) = %+v, %d, and the member is %+v, was %+v", x, letters, errno, m, before)
+			}
+		}
+	}
+	for errno, times := range seen {
+		if times < 20 {
+			t.Errorf("the answer %d came only %d times", errno, times)
+		}
+	}
+}
+
+// A view that is ahead of the block's own, as P7 has it, is never met: whoever
+// knows a block of another's is beyond its view.
+func TestP7TheThirdVoteEntersTheViewBehindIfItIsNotThere(t *testing.T) {
+	for _, view := range []int{1, 4, 5, 6} {
+		m := memberInside(t, 2, 9)
+		block := api.Block{View: 5, Command: "x"}
+		m.know(block)
+		m.view, m.waited = view, 3
+		for from := range api.Quorum {
+			if m.view != view || m.waited != 3 {
+				t.Fatalf("after %d votes in view %d: view %d, %d waited", from, view, m.view, m.waited)
+			}
+			x := api.Message{Kind: api.Vote, From: from, View: 5, Number: Number(block), Seal: Seal(from, api.Vote, 5, Number(block))}
+			if _, errno := m.Handle(x); errno != api.OK {
+				t.Fatalf("in view %d: %d", view, errno)
+			}
+		}
+		waited := 0
+		if view == 6 {
+			waited = 3
+		}
+		if m.view != 6 || m.waited != waited || m.high != certInside(5, Number(block)) {
+			t.Errorf("in view %d: view %d, %d waited, High %+v", view, m.view, m.waited, m.high)
+		}
+	}
+}
+
+func TestNothingIsKeptOfWhatIsOld(t *testing.T) {
+	m := memberInside(t, 2, 9)
+	for _, view := range []int{2, 6, 10} {
+		m.views[view] = viewRecord{proposed: true}
+	}
+	numbers := map[int]uint64{}
+	for _, view := range []int{1, 5, 9} {
+		block := api.Block{View: view}
+		m.know(block)
+		numbers[view] = Number(block)
+		m.votes[Number(block)] = roll{true}
+	}
+	m.enter(6)
+	if len(m.views) != 2 || len(m.votes) != 2 || m.votes[numbers[5]] != (roll{true}) {
+		t.Errorf("in view 6 are kept %v and %v", m.views, m.votes)
+	}
+	m.learn(certInside(5, numbers[5]))
+	if len(m.votes) != 1 || m.votes[numbers[9]] != (roll{true}) {
+		t.Errorf("with High of view 5 are kept %v", m.votes)
+	}
+	m.enter(11)
+	if len(m.views) != 0 || len(m.votes) != 0 || len(m.blocks) != 4 {
+		t.Errorf("in view 11 are kept %v, %v and %v", m.views, m.votes, m.blocks)
+	}
+}
+
+func TestTheAncestorsOfABlock(t *testing.T) {
+	m := memberInside(t, 0, 9)
+	just := api.Cert{}
+	line := []uint64{firstBlock}
+	for view := 1; view <= 5; view++ {
+		block := api.Block{View: view, Just: just}
+		m.know(block)
+		line = append(line, Number(block))
+		just = certInside(view, Number(block))
+	}
+	for i, number := range line {
+		want := slices.Clone(line[:i])
+		slices.Reverse(want)
+		ahead := m.ahead(number)
+		for range 2 { // it can be gone through again
+			if got := slices.Collect(ahead); !slices.Equal(got, want) {
+				t.Errorf("ahead of block %d are %v, want %v", i, got, want)
+			}
+		}
+		for j, other := range line {
+			if m.isAhead(other, number) != (j < i) {
+				t.Errorf("block %d ahead of block %d: %v", j, i, j >= i)
+			}
+		}
+	}
+	met := 0
+	for range m.ahead(line[5]) {
+		if met++; met == 2 {
+			break
+		}
+	}
+	if met != 2 {
+		t.Errorf("left after %d", met)
 	}
 }

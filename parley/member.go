@@ -11,27 +11,32 @@ import (
 type Member struct {
 	id, patience int
 	view, waited int
+	voted        int // the last view in which it has voted
 	high, locked api.Cert
 	queue        []string
 	log          []uint64 // numbers of blocks, the oldest first
 	blocks       map[uint64]api.Block
+	votes        map[uint64]roll // by the number of the block voted for
 	views        map[int]viewRecord
 }
 
 // viewRecord is what a member keeps of a view that it leads.
 type viewRecord struct {
 	proposed bool
-	entered  [api.Members]bool // whose Enter was taken
+	entered  roll
 }
 
-func (r viewRecord) entries() int {
+// roll tells of each member whether its message was taken.
+type roll [api.Members]bool
+
+func (r roll) full() bool {
 	taken := 0
-	for _, entered := range r.entered {
-		if entered {
+	for _, is := range r {
+		if is {
 			taken++
 		}
 	}
-	return taken
+	return taken >= api.Quorum
 }
 
 func leader(view int) int { return view % api.Members }
@@ -47,8 +52,14 @@ func (m *Member) wait(sent outbox) {
 
 func (m *Member) enter(view int) {
 	m.view, m.waited = view, 0
-	// No view is gone back to: what is kept of those behind would not be asked again.
-	maps.DeleteFunc(m.views, func(v int, _ viewRecord) bool { return v < view })
+	m.forget()
+}
+
+// forget drops what is not asked for again: neither the view nor High's ever goes
+// back, and a message for what lies behind them is refused as old.
+func (m *Member) forget() {
+	maps.DeleteFunc(m.views, func(view int, _ viewRecord) bool { return view < m.view })
+	maps.DeleteFunc(m.votes, func(number uint64, _ roll) bool { return m.isOldVote(m.blocks[number].View) })
 }
 
 func (m *Member) enterLetter() api.Letter {
@@ -76,7 +87,7 @@ func (m *Member) mayPropose() bool {
 	if leader(m.view) != m.id || record.proposed {
 		return false
 	}
-	return m.high.View == m.view-1 || record.entries() >= api.Quorum
+	return m.high.View == m.view-1 || record.entered.full()
 }
 
 func (m *Member) noteProposed() {
@@ -92,14 +103,6 @@ func (m *Member) takeCommand() string {
 	command := m.queue[0]
 	m.queue = slices.Delete(m.queue, 0, 1)
 	return command
-}
-
-// know keeps the first of the blocks of one number: a later one may have another Just.
-func (m *Member) know(block api.Block) {
-	number := Number(block)
-	if _, known := m.blocks[number]; !known {
-		m.blocks[number] = block
-	}
 }
 
 func (m *Member) proposalLetter(block api.Block) api.Letter {

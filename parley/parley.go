@@ -36,7 +36,7 @@ func rightSeals(c api.Cert) int {
 
 // New makes a member (P3).
 func New(member int, patience int) (*Member, api.Errno) {
-	if member < 0 || member >= api.Members || patience < 1 || patience > api.MaxPatience {
+	if !isMember(member) || patience < 1 || patience > api.MaxPatience {
 		return nil, api.ErrForm
 	}
 	return &Member{
@@ -44,7 +44,8 @@ func New(member int, patience int) (*Member, api.Errno) {
 		patience: patience,
 		view:     1,
 		// The first block's number is 0 by definition, not by its text.
-		blocks: map[uint64]api.Block{0: {}},
+		blocks: map[uint64]api.Block{firstBlock: {}},
+		votes:  map[uint64]roll{},
 		views:  map[int]viewRecord{},
 	}, api.OK
 }
@@ -71,7 +72,13 @@ func (m *Member) Tick() (letters []api.Letter) {
 }
 
 // Handle takes a message (P5).
-func (m *Member) Handle(message api.Message) ([]api.Letter, api.Errno) { return nil, api.OK }
+func (m *Member) Handle(message api.Message) (letters []api.Letter, errno api.Errno) {
+	sent := newOutbox()
+	defer sent.takeAll(&letters)
+	errno = m.take(message, sent)
+	m.propose(sent)
+	return nil, errno
+}
 
 // View tells the view (P3).
 func (m *Member) View() int { return m.view }
